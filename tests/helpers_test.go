@@ -1,0 +1,170 @@
+package tests
+
+const (
+	leastInt = -1 << 63
+	mostInt  = 1<<63 - 1
+	spare    = 4
+	mark     = 77
+)
+
+// netOf tells a net by its wires, two places each: "0-1" is 0, 1.
+func netOf(places int, ends ...int) []int {
+	net := make([]int, places)
+	for k := 0; k+1 < len(ends); k += 2 {
+		net[ends[k]] |= 1 << ends[k+1]
+		net[ends[k+1]] |= 1 << ends[k]
+	}
+	return net
+}
+
+func pairsOf(places int) int {
+	return places * (places - 1) / 2
+}
+
+// numberedNet takes the wires whose bits are in a number; each net has one.
+func numberedNet(places int, number int) []int {
+	net := make([]int, places)
+	for a := 0; a < places; a++ {
+		for b := a + 1; b < places; b++ {
+			if number&1 == 1 {
+				net[a] |= 1 << b
+				net[b] |= 1 << a
+			}
+			number >>= 1
+		}
+	}
+	return net
+}
+
+// netsUpTo returns every net of at most as many places.
+func netsUpTo(most int) [][]int {
+	nets := [][]int{}
+	for places := 1; places <= most; places++ {
+		for number := 0; number < 1<<pairsOf(places); number++ {
+			nets = append(nets, numberedNet(places, number))
+		}
+	}
+	return nets
+}
+
+// notNets returns a list for each way in which a list is no net.
+func notNets() [][]int {
+	return [][]int{
+		nil,
+		{},
+		{0, 0, 0, 0, 0, 0, 0},
+		{2, 1, 0, 0, 0, 0, 0},
+		{126, 125, 123, 119, 111, 95, 63},
+		make([]int, 64),
+		make([]int, 1000),
+		{1},
+		{0, 2},
+		{3, 3},
+		{6, 5, 7},
+		{0, 0, 0, 0, 0, 32},
+		{2, 0},
+		{0, 1},
+		{2, 5, 0},
+		{6, 1, 0},
+		{62, 1, 1, 1, 1, 0},
+		{-1},
+		{2, -1},
+		{-2, 1},
+		{leastInt},
+		{0, leastInt, 0},
+		{2},
+		{4, 0},
+		{6, 1},
+		{2, 5},
+		{64, 0, 0, 0, 0, 0},
+		{mostInt},
+		{1 << 62, 0},
+		{2 + 1<<32, 1},
+	}
+}
+
+func notPlaces(places int) []int {
+	return []int{-1, -2, -64, leastInt, places, places + 1, 63, 64, 65, 1 << 32, mostInt}
+}
+
+func notSets(places int) []int {
+	all := 1 << places
+	return []int{-1, -2, -all, leastInt, all, all + 1, 2*all - 1, 1 << 32, 1<<32 + 1, mostInt}
+}
+
+func has(set int, place int) bool {
+	return set>>place&1 == 1
+}
+
+func size(set int) int {
+	many := 0
+	for set > 0 {
+		many += set & 1
+		set >>= 1
+	}
+	return many
+}
+
+// near reports by the net's own rows whether two places are neighbours.
+func near(net []int, a int, b int) bool {
+	return has(net[a], b)
+}
+
+func sameList(a []int, b []int) bool {
+	if len(a) != len(b) {
+		return false
+	}
+	for k := range a {
+		if a[k] != b[k] {
+			return false
+		}
+	}
+	return true
+}
+
+// lent returns a copy of a list with marks in the memory behind it.
+func lent(list []int) []int {
+	memory := make([]int, 0, len(list)+spare)
+	memory = append(memory, list...)
+	for k := 0; k < spare; k++ {
+		memory = append(memory, mark)
+	}
+	return memory[:len(list)]
+}
+
+// untouched reports whether a lent list, and the memory behind it, is as it was.
+func untouched(list []int, was []int) bool {
+	memory := list[:len(list)+spare]
+	for k := len(list); k < len(memory); k++ {
+		if memory[k] != mark {
+			return false
+		}
+	}
+	return sameList(list, was)
+}
+
+// spoil writes all over an answer, and into what memory is behind it.
+func spoil(answer []int) {
+	for k := range answer {
+		answer[k] = -99
+	}
+	answer = append(answer, -99)
+	answer[0] = -99
+}
+
+// ordersOf returns all orders of as many places.
+func ordersOf(places int) [][]int {
+	orders := [][]int{{}}
+	for last := 0; last < places; last++ {
+		longer := [][]int{}
+		for _, order := range orders {
+			for at := 0; at <= last; at++ {
+				next := append([]int{}, order[:at]...)
+				next = append(next, last)
+				longer = append(longer, append(next, order[at:]...))
+			}
+		}
+		orders = longer
+	}
+	return orders
+}
