@@ -17,6 +17,28 @@ func netOf(places int, ends ...int) []int {
 	return net
 }
 
+// allNeighbours is the net of MaxPlaces places in which all are neighbours.
+func allNeighbours() []int {
+	return []int{62, 61, 59, 55, 47, 31}
+}
+
+// ringOfSix is the net in which each place has the one before and the one behind it.
+func ringOfSix() []int {
+	return netOf(6, 0, 1, 1, 2, 2, 3, 3, 4, 4, 5, 5, 0)
+}
+
+// starAt is the net in which one place is the only neighbour of all others.
+func starAt(places int, middle int) []int {
+	net := make([]int, places)
+	for place := range net {
+		if place != middle {
+			net[place] = 1 << middle
+			net[middle] |= 1 << place
+		}
+	}
+	return net
+}
+
 func pairsOf(places int) int {
 	return places * (places - 1) / 2
 }
@@ -90,6 +112,27 @@ func notPlaces(places int) []int {
 func notSets(places int) []int {
 	all := 1 << places
 	return []int{-1, -2, -all, leastInt, all, all + 1, 2*all - 1, 1 << 32, 1<<32 + 1, mostInt}
+}
+
+type netAndSet struct {
+	net []int
+	set int
+}
+
+// wrongSets returns lists that are no nets with sets, and nets with numbers that are no sets.
+func wrongSets() []netAndSet {
+	wrong := []netAndSet{}
+	for _, list := range notNets() {
+		for set := -1; set <= 128; set++ {
+			wrong = append(wrong, netAndSet{list, set})
+		}
+	}
+	for _, net := range append(netsUpTo(4), make([]int, 6), allNeighbours(), ringOfSix()) {
+		for _, set := range notSets(len(net)) {
+			wrong = append(wrong, netAndSet{net, set})
+		}
+	}
+	return wrong
 }
 
 func has(set int, place int) bool {
