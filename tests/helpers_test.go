@@ -135,6 +135,73 @@ func wrongSets() []netAndSet {
 	return wrong
 }
 
+// listsToLend returns nets, and lists that are none, to see that nothing is written into them.
+func listsToLend() [][]int {
+	lists := netsUpTo(5)
+	lists = append(lists, make([]int, 6), allNeighbours(), ringOfSix(), starAt(6, 5))
+	return append(lists, notNets()...)
+}
+
+// setsToAsk returns all sets of a net of MaxPlaces places, and numbers that are none.
+func setsToAsk() []int {
+	sets := []int{leastInt, mostInt}
+	for set := -1; set <= 64; set++ {
+		sets = append(sets, set)
+	}
+	return sets
+}
+
+// lastOf reports whether a set is one of the good ones, and no set with more places around it is.
+func lastOf(good []bool, set int) bool {
+	for around := set + 1; around < len(good); around++ {
+		if around&set == set && good[around] {
+			return false
+		}
+	}
+	return good[set]
+}
+
+// lastsOf tells for each set, by its number, whether it is a last one of the good ones.
+func lastsOf(good []bool) []bool {
+	lasts := make([]bool, len(good))
+	for set := range good {
+		lasts[set] = lastOf(good, set)
+	}
+	return lasts
+}
+
+// sizesOf returns how many good sets there are of each number of places, from 0 on.
+func sizesOf(good []bool) []int {
+	counts := make([]int, 7)
+	for set, one := range good {
+		if one {
+			counts[size(set)]++
+		}
+	}
+	return counts
+}
+
+// fewestOf returns the least number of places of a good set.
+func fewestOf(good []bool) int {
+	for many, count := range sizesOf(good) {
+		if count > 0 {
+			return many
+		}
+	}
+	return -1
+}
+
+// mostOf returns the greatest number of places of a good set.
+func mostOf(good []bool) int {
+	most := -1
+	for many, count := range sizesOf(good) {
+		if count > 0 {
+			most = many
+		}
+	}
+	return most
+}
+
 func has(set int, place int) bool {
 	return set>>place&1 == 1
 }
