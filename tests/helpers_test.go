@@ -278,3 +278,217 @@ func ordersOf(places int) [][]int {
 	}
 	return orders
 }
+
+// renumbered returns the number of a net in which the places of a numbered net have the names of an order.
+func renumbered(net []int, order []int) int {
+	number := 0
+	bit := 1
+	for a := range net {
+		for b := a + 1; b < len(net); b++ {
+			if near(net, order[a], order[b]) {
+				number += bit
+			}
+			bit *= 2
+		}
+	}
+	return number
+}
+
+// shapesOf returns one net of as many places for each way in which nets are the same but for names.
+func shapesOf(places int) [][]int {
+	shapes := [][]int{}
+	orders := ordersOf(places)
+	known := make([]bool, 1<<pairsOf(places))
+	for number := range known {
+		if known[number] {
+			continue
+		}
+		net := numberedNet(places, number)
+		shapes = append(shapes, net)
+		for _, order := range orders {
+			known[renumbered(net, order)] = true
+		}
+	}
+	return shapes
+}
+
+// manyNets returns every net of at most five places, and every one of six by some of its names:
+// for tests that would take too long with all of them.
+func manyNets() [][]int {
+	nets := netsUpTo(5)
+	for _, shape := range shapesOf(6) {
+		for _, order := range [][]int{{0, 1, 2, 3, 4, 5}, {5, 4, 3, 2, 1, 0}, {2, 5, 0, 4, 1, 3}} {
+			nets = append(nets, numberedNet(6, renumbered(shape, order)))
+		}
+	}
+	return nets
+}
+
+// fullNet is the net of as many places in which all are neighbours.
+func fullNet(places int) []int {
+	return numberedNet(places, 1<<pairsOf(places)-1)
+}
+
+// wayOf is the net in which each place but the last has the next one as its neighbour.
+func wayOf(places int) []int {
+	net := make([]int, places)
+	for place := 1; place < places; place++ {
+		net[place] |= 1 << (place - 1)
+		net[place-1] |= 1 << place
+	}
+	return net
+}
+
+// threePairs has three parts of two places each.
+func threePairs() []int {
+	return netOf(6, 0, 5, 1, 4, 2, 3)
+}
+
+// allRows returns all rows of as many numbers in 0..2, in their order from the place 0 on.
+func allRows(places int) [][]int {
+	rows := [][]int{{}}
+	for place := 0; place < places; place++ {
+		longer := [][]int{}
+		for _, row := range rows {
+			for number := 0; number <= 2; number++ {
+				longer = append(longer, append(append([]int{}, row...), number))
+			}
+		}
+		rows = longer
+	}
+	return rows
+}
+
+// rowsUpTo returns allRows of each number of places, from 0 on.
+func rowsUpTo(most int) [][][]int {
+	rows := [][][]int{}
+	for places := 0; places <= most; places++ {
+		rows = append(rows, allRows(places))
+	}
+	return rows
+}
+
+// rowLike returns a row of as many numbers that are all the same one.
+func rowLike(places int, number int) []int {
+	row := make([]int, places)
+	for place := range row {
+		row[place] = number
+	}
+	return row
+}
+
+// placesOf returns the set of the places whose numbers are in a range.
+func placesOf(row []int, least int, most int) int {
+	set := 0
+	for place, number := range row {
+		if least <= number && number <= most {
+			set += 1 << place
+		}
+	}
+	return set
+}
+
+func sumOf(row []int) int {
+	sum := 0
+	for _, number := range row {
+		sum += number
+	}
+	return sum
+}
+
+// notRows returns a list for each way in which a list is no row of as many places.
+func notRows(places int) [][]int {
+	rows := [][]int{nil, make([]int, 64)}
+	for number := 0; number <= 2; number++ {
+		rows = append(rows, rowLike(places-1, number), rowLike(places+1, number), rowLike(places+2, number))
+	}
+	for place := 0; place < places; place++ {
+		for _, number := range []int{-1, -2, 3, 4, 256, 1 << 32, 1<<32 + 1, leastInt, mostInt} {
+			row := rowLike(places, 2)
+			row[place] = number
+			rows = append(rows, row)
+		}
+	}
+	return rows
+}
+
+type netAndRow struct {
+	net []int
+	row []int
+}
+
+// wrongRows returns lists that are no nets with rows, and nets with lists that are no rows.
+func wrongRows() []netAndRow {
+	wrong := []netAndRow{}
+	for _, list := range notNets() {
+		for number := 0; number <= 2; number++ {
+			wrong = append(wrong, netAndRow{list, rowLike(len(list), number)})
+		}
+		wrong = append(wrong, netAndRow{list, nil}, netAndRow{list, []int{2}}, netAndRow{list, rowLike(6, 1)})
+	}
+	for _, net := range append(netsUpTo(4), make([]int, 6), allNeighbours(), ringOfSix()) {
+		for _, row := range notRows(len(net)) {
+			wrong = append(wrong, netAndRow{net, row})
+		}
+	}
+	return wrong
+}
+
+// rowsToAsk returns rows of some lengths, and lists that are no rows.
+func rowsToAsk() [][]int {
+	rows := [][]int{}
+	for places := 1; places <= 3; places++ {
+		rows = append(rows, allRows(places)...)
+	}
+	for places := 4; places <= 7; places++ {
+		rows = append(rows, rowLike(places, 0), rowLike(places, 1), rowLike(places, 2))
+	}
+	return append(rows, notRows(6)...)
+}
+
+// fewNets returns every net of at most four places, and every one of five and six by one or two of
+// its names: for tests that ask for each set and place.
+func fewNets() [][]int {
+	nets := netsUpTo(4)
+	for _, shape := range shapesOf(5) {
+		nets = append(nets, shape, numberedNet(5, renumbered(shape, []int{4, 1, 3, 0, 2})))
+	}
+	for _, shape := range shapesOf(6) {
+		nets = append(nets, numberedNet(6, renumbered(shape, []int{2, 5, 0, 4, 1, 3})))
+	}
+	return nets
+}
+
+// twoAndFour has the wires from each of two places to each of four other ones.
+func twoAndFour() []int {
+	return []int{60, 60, 3, 3, 3, 3}
+}
+
+// goodSets lists the sets that are good ones.
+func goodSets(good []bool) []int {
+	list := []int{}
+	for set, one := range good {
+		if one {
+			list = append(list, set)
+		}
+	}
+	return list
+}
+
+func sameFlags(a []bool, b []bool) bool {
+	for k := range a {
+		if a[k] != b[k] {
+			return false
+		}
+	}
+	return len(a) == len(b)
+}
+
+// allGood returns a list in which each set is a good one.
+func allGood(net []int) []bool {
+	good := make([]bool, 1<<len(net))
+	for set := range good {
+		good[set] = true
+	}
+	return good
+}
