@@ -492,3 +492,146 @@ func allGood(net []int) []bool {
 	}
 	return good
 }
+
+// countingRows returns all rows of as many numbers from 0 on, each at most one more than all ahead
+// of it, in their order.
+func countingRows(places int) [][]int {
+	rows := [][]int{{}}
+	for place := 0; place < places; place++ {
+		longer := [][]int{}
+		for _, row := range rows {
+			for number := 0; number <= numbersIn(row); number++ {
+				longer = append(longer, append(append([]int{}, row...), number))
+			}
+		}
+		rows = longer
+	}
+	return rows
+}
+
+// countingUpTo returns countingRows of each number of places, from 0 on.
+func countingUpTo(most int) [][][]int {
+	rows := [][][]int{}
+	for places := 0; places <= most; places++ {
+		rows = append(rows, countingRows(places))
+	}
+	return rows
+}
+
+// numbersIn returns one more than the greatest number of a row, or 0.
+func numbersIn(row []int) int {
+	many := 0
+	for _, number := range row {
+		many = max(many, number+1)
+	}
+	return many
+}
+
+// smallRows returns all rows of as many numbers in -1..places.
+func smallRows(places int) [][]int {
+	rows := [][]int{{}}
+	for place := 0; place < places; place++ {
+		longer := [][]int{}
+		for _, row := range rows {
+			for number := -1; number <= places; number++ {
+				longer = append(longer, append(append([]int{}, row...), number))
+			}
+		}
+		rows = longer
+	}
+	return rows
+}
+
+// isCounting reports whether each number of a row is 0 or one more than some number ahead of it,
+// or stands ahead of it as well.
+func isCounting(row []int) bool {
+	for at, number := range row {
+		known := number == 0
+		for _, ahead := range row[:at] {
+			known = known || ahead == number || ahead == number-1
+		}
+		if number < 0 || !known {
+			return false
+		}
+	}
+	return true
+}
+
+// bentRows returns rows of as many numbers that do not count up: each one is made of a row that does
+// by another number at one place.
+func bentRows(places int) [][]int {
+	bent := [][]int{}
+	for _, row := range countingRows(places) {
+		for place := range row {
+			for _, number := range []int{-1, -2, row[place] + 1, row[place] + 2, numbersIn(row[:place]) + 1, places, 63, 64, 1 << 32, leastInt, mostInt} {
+				other := append([]int{}, row...)
+				other[place] = number
+				if !isCounting(other) {
+					bent = append(bent, other)
+				}
+			}
+		}
+	}
+	return bent
+}
+
+// otherLengths returns rows that count up, but are not of as many numbers.
+func otherLengths(places int) [][]int {
+	rows := [][]int{nil, {}, make([]int, 64)}
+	for _, many := range []int{places - 1, places + 1, places + 2, 2 * places} {
+		if many > 0 {
+			up := make([]int, many)
+			for place := range up {
+				up[place] = place
+			}
+			rows = append(rows, rowLike(many, 0), up)
+		}
+	}
+	return rows
+}
+
+func sameTexts(a []string, b []string) bool {
+	if len(a) != len(b) {
+		return false
+	}
+	for k := range a {
+		if a[k] != b[k] {
+			return false
+		}
+	}
+	return true
+}
+
+func sameBytes(a []byte, b []byte) bool {
+	return string(a) == string(b)
+}
+
+// lentBytes returns a copy of bytes with marks in the memory behind it.
+func lentBytes(list []byte) []byte {
+	memory := make([]byte, 0, len(list)+spare)
+	memory = append(memory, list...)
+	for k := 0; k < spare; k++ {
+		memory = append(memory, mark)
+	}
+	return memory[:len(list)]
+}
+
+// untouchedBytes reports whether lent bytes, and the memory behind them, are as they were.
+func untouchedBytes(list []byte, was []byte) bool {
+	memory := list[:len(list)+spare]
+	for k := len(list); k < len(memory); k++ {
+		if memory[k] != mark {
+			return false
+		}
+	}
+	return sameBytes(list, was)
+}
+
+// spoilBytes writes all over an answer, and into what memory is behind it.
+func spoilBytes(answer []byte) {
+	for k := range answer {
+		answer[k] = 99
+	}
+	answer = append(answer, 99)
+	answer[0] = 99
+}
